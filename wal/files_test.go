@@ -247,28 +247,33 @@ func TestP15_2TruncateStops(t *testing.T) {
 	}
 }
 
-// A disk that has stopped tells nothing of its files, and lets none be read, or removed.
+// Of a disk that has stopped List tells no files, so none is read, or removed, and no error of that is told.
 func TestP15_2Stopped(t *testing.T) {
-	f := plainFiles{"log-00000001": logOf(row(1, 1)...), "log-00000002": logOf(row(2, 1)...), "a": ""}
-	d := diskOf(t, f)
-	d.Arm(1)
-	must(t, d.Remove("a"), api.ErrCrash)
-	for range 2 {
-		if l := Logs(d); len(l) > 0 {
-			t.Error(l)
-		}
-		for _, n := range []int{1, 2, 3, math.MinInt, math.MaxInt} {
-			if l, last, e := Replay(d, n, 1); len(l) > 0 || last != 0 || e != api.ErrCrash {
-				t.Error(l, last, e)
+	for _, f := range []plainFiles{{}, strangers(), {"log-00000000": ""}, {"log-00000001": logOf(row(1, 1)...), "log-00000002": logOf(row(2, 1)...) + "\xff", "a": ""}} {
+		d := diskOf(t, f)
+		want, last := f.replay(0, 1)
+		d.Arm(1)
+		must(t, d.Append("b", nil), api.ErrCrash)
+		for range 2 {
+			if l := Logs(d); len(l) > 0 {
+				t.Error(l)
 			}
-			if k, e := Truncate(d, n); k != 0 || e != api.ErrCrash {
-				t.Error(k, e)
+			for _, n := range []int{0, 1, 2, 3, math.MinInt, math.MaxInt} {
+				if l, last, e := Replay(d, n, 1); len(l) > 0 || last != -1 || e != api.OK {
+					t.Error(l, last, e)
+				}
+				if k, e := Truncate(d, n); k != 0 || e != api.OK {
+					t.Error(k, e)
+				}
 			}
 		}
+		hasFiles(t, d, f)
+		if !d.Stopped() {
+			t.Error("it goes on")
+		}
+		d.Restart()
+		replays(t, d, 0, 1, want, last)
 	}
-	hasFiles(t, d, f)
-	d.Restart()
-	replays(t, d, 0, 1, row(1, 1, 1), 2)
 }
 
 // What asks calls for no writing, and so stops no disk.
@@ -289,14 +294,14 @@ func TestP15_2NoWriting(t *testing.T) {
 	must(t, d.Append("a", nil), api.ErrCrash)
 }
 
-// nobodys are disks that nobody made.
-func nobodys() []*disk.Disk {
+// unmade are disks that nobody made.
+func unmade() []*disk.Disk {
 	var none disk.Disk
 	return []*disk.Disk{nil, {}, new(disk.Disk), &none}
 }
 
 func TestRule3NobodysDisk(t *testing.T) {
-	for _, d := range nobodys() {
+	for _, d := range unmade() {
 		if l := Logs(d); len(l) > 0 {
 			t.Error(l)
 		}

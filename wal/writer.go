@@ -16,7 +16,7 @@ type Writer struct {
 
 // Open is the writer of the file of a number; there need be none yet.
 func Open(d *disk.Disk, n int) (*Writer, api.Errno) {
-	if silent(d) == api.ErrNil {
+	if nobodys(d) {
 		return nil, api.ErrNil
 	}
 	name, e := Name(n)

@@ -330,7 +330,7 @@ func TestRule1OddWriters(t *testing.T) {
 	if copied.Size() != w.Size() || copied.Number() != 3 {
 		t.Error(copied.Size(), w.Size())
 	}
-	for _, d := range nobodys() {
+	for _, d := range unmade() {
 		w.Disk = d
 		must(t, w.Append(row(1, 1)...), api.ErrNil)
 		must(t, w.Sync(), api.ErrNil)
